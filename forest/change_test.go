@@ -24,7 +24,7 @@ func does(t *testing.T, f api.Forest, c api.Change) api.Forest {
 // refuses sees that Apply, Undo and All all say why, and nothing else.
 func refuses(t *testing.T, what string, f api.Forest, c api.Change, want api.Errno) {
 	t.Helper()
-	was, wasChange := clone(f), cloneChange(c)
+	was, wasChange := sample.Copy(f), sample.CopyChange(c)
 	if g, why := forest.Apply(f, c); why != want || g.Nodes != nil {
 		t.Errorf("%s: Apply = %v, %d; want %d", what, g, why, want)
 	}
@@ -35,17 +35,9 @@ func refuses(t *testing.T, what string, f api.Forest, c api.Change, want api.Err
 	if g, n, why := forest.All(f, []api.Change{nothing, nothing, c, nothing}); why != want || n != 2 || g.Nodes != nil {
 		t.Errorf("%s: All = %v, %d, %d; want 2, %d", what, g, n, why, want)
 	}
-	if !forest.Same(f, was) || !sameChange(c, wasChange) {
+	if !forest.Same(f, was) || !sample.SameChange(c, wasChange) {
 		t.Errorf("%s: what was handed in is changed", what)
 	}
-}
-
-func sameChange(a, b api.Change) bool {
-	lists := slices.Equal(a.Data, b.Data) && slices.Equal(a.Added, b.Added) && slices.Equal(a.Removed, b.Removed)
-	made := forest.Same(api.Forest{Nodes: []api.Node{a.Made}}, api.Forest{Nodes: []api.Node{b.Made}})
-	return lists && made && a.Kind == b.Kind && a.Node == b.Node && a.Parent == b.Parent && a.Index == b.Index &&
-		a.Other == b.Other && a.Doc == b.Doc && a.Offset == b.Offset && a.Count == b.Count && a.Name == b.Name &&
-		a.Old == b.Old && a.Value == b.Value && a.Had == b.Had && a.Has == b.Has && a.Prev == b.Prev && a.Next == b.Next
 }
 
 // Chapter 3, example 1.
@@ -631,7 +623,7 @@ func TestFieldsOfChanges(t *testing.T) {
 				refuses(t, field, wood(), x, api.ErrRange)
 			}
 		}
-		x := cloneChange(c)
+		x := sample.CopyChange(c)
 		x.Data, x.Added, x.Removed = append(api.Units{}, c.Data...), append([]int{}, c.Added...), append([]int{}, c.Removed...)
 		x.Made.Data, x.Made.Kids = append(api.Units{}, c.Made.Data...), []int{}
 		if !forest.Same(does(t, wood(), x), does(t, wood(), c)) {
@@ -754,7 +746,7 @@ func TestApplyAsModel(t *testing.T) {
 		f := sample.Grow(d, 1+d.Below(12))
 		for range 12 {
 			c := anyChange(d, f)
-			was := clone(f)
+			was := sample.Copy(f)
 			g, why := forest.Apply(f, c)
 			want, wantWhy := modelApply(f, c)
 			if why != wantWhy || !forest.Same(g, want) {
@@ -907,7 +899,7 @@ func TestUndo(t *testing.T) {
 		{wood(), api.Change{Kind: api.ChangeTree, Parent: 4, Added: []int{6}, Removed: []int{7, 8}, Prev: 1, Next: 2},
 			api.Change{Kind: api.ChangeTree, Parent: 4, Added: []int{6}, Removed: []int{7, 8}, Prev: 1, Next: 2}},
 	} {
-		if back, why := forest.Undo(c.f, c.change); why != api.OK || !sameChange(back, c.want) {
+		if back, why := forest.Undo(c.f, c.change); why != api.OK || !sample.SameChange(back, c.want) {
 			t.Errorf("%+v: %+v, %d", c.change, back, why)
 		}
 	}

@@ -6,53 +6,8 @@ import (
 
 	"canopy/api"
 	"canopy/forest"
+	"canopy/sample"
 )
-
-// fill writes over a list, and over the room behind it.
-func fill[T any](l []T, v T) {
-	l = l[:cap(l)]
-	for i := range l {
-		l[i] = v
-	}
-}
-
-// spoil writes over all lists of a forest.
-func spoil(f api.Forest) {
-	for _, n := range f.Nodes[:cap(f.Nodes)] {
-		spoilNode(n)
-	}
-	fill(f.Nodes, api.Node{Kind: 99})
-}
-
-func spoilNode(n api.Node) {
-	fill(n.Data, 999)
-	fill(n.Attrs, api.Attr{Value: "spoilt"})
-	fill(n.Kids, 999)
-}
-
-func spoilChange(c api.Change) {
-	fill(c.Data, 999)
-	fill(c.Added, 999)
-	fill(c.Removed, 999)
-	spoilNode(c.Made)
-}
-
-// roomy has room behind each list, so that what is put behind one would be seen in the other's memory.
-func roomy(f api.Forest) api.Forest {
-	for i := range f.Nodes {
-		n := &f.Nodes[i]
-		n.Data, n.Attrs, n.Kids = slices.Grow(n.Data, 8), slices.Grow(n.Attrs, 8), slices.Grow(n.Kids, 8)
-	}
-	f.Nodes = slices.Grow(f.Nodes, 8)
-	return f
-}
-
-func roomyChange(c api.Change) api.Change {
-	c = cloneChange(c)
-	c.Data, c.Added, c.Removed = slices.Grow(c.Data, 8), slices.Grow(c.Added, 8), slices.Grow(c.Removed, 8)
-	c.Made = roomy(api.Forest{Nodes: []api.Node{c.Made}}).Nodes[0]
-	return c
-}
 
 // 3.5: forests that are answered share no list with what is handed in, and what is handed in is left alone.
 func TestNewForests(t *testing.T) {
@@ -69,20 +24,20 @@ func TestNewForests(t *testing.T) {
 				return g
 			},
 		} {
-			f, x := roomy(wood()), roomyChange(c)
+			f, x := sample.Roomy(wood()), sample.RoomyChange(c)
 			g := do(f, x)
-			want := clone(g)
+			want := sample.Copy(g)
 			if len(want.Nodes) < 14 {
 				t.Fatal(what, "is refused:", c)
 			}
-			spoil(f)
-			spoilChange(x)
+			sample.Spoil(f)
+			sample.SpoilChange(x)
 			if !forest.Same(g, want) {
 				t.Errorf("%s of %+v: the answer changes with what was handed in", what, c)
 			}
-			f, x = roomy(wood()), roomyChange(c)
-			spoil(do(f, x))
-			if !forest.Same(f, wood()) || !sameChange(x, c) {
+			f, x = sample.Roomy(wood()), sample.RoomyChange(c)
+			sample.Spoil(do(f, x))
+			if !forest.Same(f, wood()) || !sample.SameChange(x, c) || sample.Spoilt(f) || sample.SpoiltChange(x) {
 				t.Errorf("%s of %+v: what was handed in changes with the answer", what, c)
 			}
 		}
@@ -103,8 +58,8 @@ func TestNoListShared(t *testing.T) {
 		f, _, _ = forest.Add(f, made)
 	}
 	for i := range f.Nodes {
-		fill(f.Nodes[i].Data, uint16(i))
-		fill(f.Nodes[i].Attrs, api.Attr{Name: local("a"), Value: string(rune('a' + i))})
+		sample.Fill(f.Nodes[i].Data, uint16(i))
+		sample.Fill(f.Nodes[i].Attrs, api.Attr{Name: local("a"), Value: string(rune('a' + i))})
 	}
 	for i, n := range f.Nodes {
 		if len(n.Data) > 0 && n.Data[0] != uint16(i) || len(n.Attrs) > 0 && n.Attrs[0].Value != string(rune('a'+i)) {
@@ -119,29 +74,27 @@ func TestNewChanges(t *testing.T) {
 		if c.Kind == api.ChangeMake || c.Kind == api.ChangeShadow {
 			continue
 		}
-		f, x := roomy(wood()), roomyChange(c)
+		f, x := sample.Roomy(wood()), sample.RoomyChange(c)
 		back, why := forest.Undo(f, x)
 		if why != api.OK {
 			t.Fatal(c, why)
 		}
-		want := cloneChange(back)
-		spoil(f)
-		spoilChange(x)
-		if !sameChange(back, want) {
+		want := sample.CopyChange(back)
+		sample.Spoil(f)
+		sample.SpoilChange(x)
+		if !sample.SameChange(back, want) {
 			t.Errorf("%+v: the answer changes with what was handed in", c)
 		}
-		f, x = roomy(wood()), roomyChange(c)
+		f, x = sample.Roomy(wood()), sample.RoomyChange(c)
 		back, _ = forest.Undo(f, x)
-		spoilChange(back)
-		full := x
-		full.Data, full.Added, full.Removed = x.Data[:cap(x.Data)], x.Added[:cap(x.Added)], x.Removed[:cap(x.Removed)]
-		if !forest.Same(f, wood()) || !sameChange(x, c) || slices.Contains(full.Data, 999) || slices.Contains(full.Added, 999) || slices.Contains(full.Removed, 999) {
+		sample.SpoilChange(back)
+		if !forest.Same(f, wood()) || !sample.SameChange(x, c) || sample.Spoilt(f) || sample.SpoiltChange(x) {
 			t.Errorf("%+v: what was handed in changes with the answer", c)
 		}
 	}
 	both := []int{6, 7}
 	back, _ := forest.Undo(wood(), api.Change{Kind: api.ChangeTree, Added: both, Removed: both})
-	fill(back.Added, 1)
+	sample.Fill(back.Added, 1)
 	if !slices.Equal(back.Removed, []int{6, 7}) {
 		t.Error("Added and Removed share memory")
 	}

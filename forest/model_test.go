@@ -6,6 +6,7 @@ import (
 	"strings"
 
 	"canopy/api"
+	"canopy/sample"
 )
 
 // The model says what the chapter's words say, as plainly and slowly as can be, and shares nothing with the program.
@@ -187,27 +188,6 @@ func modelKids(f api.Forest, n api.Node) bool {
 	return !strings.Contains(word, "d")
 }
 
-// clone has lists of its own everywhere.
-func clone(f api.Forest) api.Forest {
-	g := api.Forest{}
-	for _, n := range f.Nodes {
-		n.Data = append(api.Units(nil), n.Data...)
-		n.Attrs = append([]api.Attr(nil), n.Attrs...)
-		n.Kids = append([]int(nil), n.Kids...)
-		g.Nodes = append(g.Nodes, n)
-	}
-	return g
-}
-
-// cloneChange has lists of its own everywhere.
-func cloneChange(c api.Change) api.Change {
-	c.Data = append(api.Units(nil), c.Data...)
-	c.Added = append([]int(nil), c.Added...)
-	c.Removed = append([]int(nil), c.Removed...)
-	c.Made = clone(api.Forest{Nodes: []api.Node{c.Made}}).Nodes[0]
-	return c
-}
-
 // modelApply is asked of right forests.
 func modelApply(f api.Forest, c api.Change) (api.Forest, api.Errno) {
 	if (c.Kind == api.ChangeMake || c.Kind == api.ChangeShadow) && len(f.Nodes) >= 4096 {
@@ -217,8 +197,8 @@ func modelApply(f api.Forest, c api.Change) (api.Forest, api.Errno) {
 	if !is || !onlySet(c, may+" Kind") {
 		return api.Forest{}, api.ErrRange
 	}
-	g := clone(f)
-	if !modelDo(&g, cloneChange(c)) || modelFirst(g) != -1 {
+	g := sample.Copy(f)
+	if !modelDo(&g, sample.CopyChange(c)) || modelFirst(g) != -1 {
 		return api.Forest{}, api.ErrRange
 	}
 	return g, api.OK

@@ -1,4 +1,4 @@
-// Package sample grows right forests for tests. What it grows hangs on the number that it is given alone.
+// Package sample grows right forests for tests, and tells which things share memory. What it grows hangs on the number that it is given alone.
 package sample
 
 import (
