@@ -1,0 +1,65 @@
+package sample_test
+
+import (
+	"testing"
+
+	"canopy/api"
+	"canopy/forest"
+	"canopy/sample"
+	"canopy/walk"
+)
+
+// A text becomes the tree that it writes out, with handles in the text's order.
+func TestTree(t *testing.T) {
+	for text, want := range map[string]string{
+		"":              "#document\n",
+		"a":             "#document\n  <a>\n",
+		"- a(b(c) #)":   "#document\n  #comment 0\n  <a>\n    <b>\n      <c>\n    #text 0\n",
+		")a(b(c)d(e))-": "#document\n  <a>\n    <b>\n      <c>\n    <d>\n      <e>\n  #comment 0\n",
+	} {
+		f := sample.Tree(text)
+		if got, why := forest.Print(f, 1); why != api.OK || got != want {
+			t.Errorf("%q: error %d, %s", text, why, got)
+		}
+	}
+	if f := sample.Tree("a(b(c)d)"); f.Nodes[3].Name.Local != "c" || f.Nodes[4].Name.Local != "d" || f.Nodes[4].Parent != 2 {
+		t.Error(f)
+	}
+}
+
+// A thick forest is right, and more hangs in it than in one that is but grown.
+func TestThick(t *testing.T) {
+	thick, grown := 0, 0
+	for seed := range 50 {
+		f, g := sample.Thick(sample.NewDice(seed), 20), sample.Grow(sample.NewDice(seed), 20)
+		if why, at := forest.Check(f); why != api.OK || len(f.Nodes) != 20 {
+			t.Errorf("seed %d: error %d at %d", seed, why, at)
+		}
+		for i := range f.Nodes {
+			thick += min(f.Nodes[i].Parent, 1)
+			grown += min(g.Nodes[i].Parent, 1)
+		}
+	}
+	if thick <= grown || thick < 500 {
+		t.Error("it is not thick:", thick, grown)
+	}
+}
+
+// Filters are never wrong, and say each verdict now and then.
+func TestFilter(t *testing.T) {
+	said := map[api.Verdict]int{}
+	for seed := range 200 {
+		d := sample.NewDice(seed)
+		f, flt := sample.Grow(d, 12), sample.Filter(d)
+		for i := range f.Nodes {
+			v, why := walk.Accept(f, flt, i+1)
+			if why != api.OK {
+				t.Errorf("seed %d: error %d", seed, why)
+			}
+			said[v]++
+		}
+	}
+	if len(said) != 3 || said[api.VerdictAccept] < 500 || said[api.VerdictReject] < 150 || said[api.VerdictSkip] < 150 {
+		t.Error("too few of a kind:", said)
+	}
+}
