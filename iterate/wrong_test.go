@@ -46,47 +46,6 @@ func wantFoldRefused(t *testing.T, what string, f api.Forest, l []api.Iterator, 
 
 func isZero(it api.Iterator) bool { return same(it, api.Iterator{}) && it.Filter.Rules == nil }
 
-// flat is a document with an element that has so many texts that there are n nodes.
-func flat(n int) api.Forest {
-	f := sample.Tree("a")
-	for h := 3; h <= n; h++ {
-		f.Nodes = append(f.Nodes, api.Node{Kind: api.KindText, Doc: 1, Parent: 2})
-		f.Nodes[1].Kids = append(f.Nodes[1].Kids, h)
-	}
-	return f
-}
-
-// deep is a document with elements, each within the one ahead of it, so that there are n nodes.
-func deep(n int) api.Forest {
-	f := sample.Tree("a")
-	for h := 3; h <= n; h++ {
-		f.Nodes = append(f.Nodes, api.Node{Kind: api.KindElement, Name: api.Name{Local: "b"}, Doc: 1, Parent: h - 1})
-		f.Nodes[h-2].Kids = []int{h}
-	}
-	return f
-}
-
-// torn are forests that are not right.
-func torn() []api.Forest {
-	var l []api.Forest
-	for _, turn := range []func(f *api.Forest){
-		func(f *api.Forest) { f.Nodes[1].Doc = 0 },
-		func(f *api.Forest) { f.Nodes[1].Kids[0] = 99 },
-		func(f *api.Forest) { f.Nodes[1].Kids[0] = 2 },
-		func(f *api.Forest) { f.Nodes[1].Kids = append(f.Nodes[1].Kids, 3) },
-		func(f *api.Forest) { f.Nodes[1].Parent = 3 },
-		func(f *api.Forest) { f.Nodes[1].Parent = -1 },
-		func(f *api.Forest) { f.Nodes[1].Kind = 2 },
-		func(f *api.Forest) { f.Nodes[3].Kids = []int{2} },
-		func(f *api.Forest) { *f = flat(api.MaxNodes + 1) },
-	} {
-		f := sample.Tree("a(b c)")
-		turn(&f)
-		l = append(l, f)
-	}
-	return l
-}
-
 // filters are some by the error that they are.
 func filters() map[api.Errno]api.Filter {
 	fine := slices.Repeat([]api.Rule{{Verdict: api.VerdictAccept}}, api.MaxRules+1)
@@ -99,7 +58,7 @@ func filters() map[api.Errno]api.Filter {
 
 // P14.1 to P14.4: a forest that is not right goes ahead of all, whatever else is wrong.
 func TestTornForest(t *testing.T) {
-	for _, f := range torn() {
+	for _, f := range sample.Torn() {
 		for _, flt := range filters() {
 			for _, h := range []int{1, 3, 0, -1, 99999} {
 				wantRefused(t, "a torn forest", f, api.Iterator{Root: h, Ref: h, Filter: flt}, api.ErrForest)
@@ -198,7 +157,7 @@ func TestFoldErrors(t *testing.T) {
 	} {
 		wantFoldRefused(t, x.what, f, x.l, x.changes, x.why)
 	}
-	stuffed := flat(api.MaxNodes)
+	stuffed := sample.Flat(api.MaxNodes)
 	more := []api.Change{cut(t, stuffed, 3), {Kind: api.ChangeMake, Node: api.MaxNodes + 1, Made: api.Node{Kind: api.KindText, Doc: 1}}}
 	wantFoldRefused(t, "one node too many", stuffed, []api.Iterator{right}, more, api.ErrMany)
 }
@@ -316,7 +275,7 @@ func swaps(parent, a, b int) []api.Change {
 
 // twins is a document whose element has two deep kids, of which the second one begins with the node that is told.
 func twins() (api.Forest, int) {
-	f := deep(api.MaxNodes)
+	f := sample.Deep(api.MaxNodes)
 	half := api.MaxNodes / 2
 	f.Nodes[half-1].Parent = 2
 	f.Nodes[half-2].Kids = nil
@@ -333,7 +292,7 @@ func TestGreatFold(t *testing.T) {
 		changes []api.Change
 	}{
 		"deep": {two, swaps(2, 3, half)},
-		"flat": {flat(api.MaxNodes), slices.Repeat([]api.Change{{Kind: api.ChangeRemove, Node: 4, Parent: 2, Index: 1}, {Kind: api.ChangeInsert, Node: 4, Parent: 2, Index: 1}}, api.MaxList/2)},
+		"flat": {sample.Flat(api.MaxNodes), slices.Repeat([]api.Change{{Kind: api.ChangeRemove, Node: 4, Parent: 2, Index: 1}, {Kind: api.ChangeInsert, Node: 4, Parent: 2, Index: 1}}, api.MaxList/2)},
 	} {
 		var l []api.Iterator
 		for i := range api.MaxList {
@@ -352,7 +311,7 @@ func TestGreatFold(t *testing.T) {
 // P1: a filter that shows nothing has the greatest forests gone through soon, there and back, by one call.
 func TestGreatSteps(t *testing.T) {
 	started := time.Now()
-	for _, f := range []api.Forest{flat(api.MaxNodes), deep(api.MaxNodes)} {
+	for _, f := range []api.Forest{sample.Flat(api.MaxNodes), sample.Deep(api.MaxNodes)} {
 		for range 20 {
 			it := api.Iterator{Root: 1, Ref: 1, Before: true, Filter: filters()[api.OK]}
 			it.Filter.Show = 0

@@ -5,25 +5,44 @@ import (
 	"canopy/forest"
 )
 
-// Tree is a document with what a text writes out: a letter is an element of that name, # a text, - a comment; what stands in brackets lies within the node ahead of them. The handles rise from 2 on, as the nodes are written.
+// Tree is a document with what a text writes out: a letter is an element of that name, # a text, = a CDATA, - a comment, ? an instruction, ! a doctype; what stands in quotes are the data of the node ahead of them, what stands in brackets lies within it. The handles rise from 2 on, as the nodes are written.
 func Tree(text string) api.Forest {
 	f := forest.New(false)
-	open := []int{1}
+	open, quoted := []int{1}, false
 	for _, r := range text {
+		n, is := written(r)
 		switch {
+		case r == '"':
+			quoted = !quoted
+		case quoted:
+			last := &f.Nodes[len(f.Nodes)-1]
+			last.Data = append(last.Data, uint16(r))
 		case r == '(':
 			open = append(open, len(f.Nodes))
 		case r == ')' && len(open) > 1:
 			open = open[:len(open)-1]
-		case r == '#':
-			hang(&f, open[len(open)-1], api.Node{Kind: api.KindText})
-		case r == '-':
-			hang(&f, open[len(open)-1], api.Node{Kind: api.KindComment})
-		case r >= 'a' && r <= 'z':
-			hang(&f, open[len(open)-1], api.Node{Kind: api.KindElement, Name: api.Name{Local: string(r)}})
+		case is:
+			hang(&f, open[len(open)-1], n)
 		}
 	}
 	return f
+}
+
+// written is the node that a sign stands for.
+func written(r rune) (api.Node, bool) {
+	switch r {
+	case '#':
+		return api.Node{Kind: api.KindText}, true
+	case '=':
+		return api.Node{Kind: api.KindCData}, true
+	case '-':
+		return api.Node{Kind: api.KindComment}, true
+	case '?':
+		return api.Node{Kind: api.KindInstruction, Name: api.Name{Local: "i"}}, true
+	case '!':
+		return api.Node{Kind: api.KindDoctype, Name: api.Name{Local: "d"}}, true
+	}
+	return api.Node{Kind: api.KindElement, Name: api.Name{Local: string(r)}}, r >= 'a' && r <= 'z'
 }
 
 // hang has a node more, the last kid of a parent.
@@ -31,6 +50,47 @@ func hang(f *api.Forest, parent int, n api.Node) {
 	n.Doc, n.Parent = 1, parent
 	f.Nodes = append(f.Nodes, n)
 	f.Nodes[parent-1].Kids = append(f.Nodes[parent-1].Kids, len(f.Nodes))
+}
+
+// Flat is a document with an element that has so many texts that there are n nodes.
+func Flat(n int) api.Forest {
+	f := Tree("a")
+	for len(f.Nodes) < n {
+		hang(&f, 2, api.Node{Kind: api.KindText})
+	}
+	return f
+}
+
+// Deep is a document with elements, each within the one ahead of it, so that there are n nodes.
+func Deep(n int) api.Forest {
+	f := Tree("a")
+	for len(f.Nodes) < n {
+		hang(&f, len(f.Nodes), api.Node{Kind: api.KindElement, Name: api.Name{Local: "b"}})
+	}
+	return f
+}
+
+// Torn are forests that are not right, each for a reason of its own.
+func Torn() []api.Forest {
+	var l []api.Forest
+	for _, tear := range []func(f *api.Forest){
+		func(f *api.Forest) { f.Nodes[1].Doc = 0 },
+		func(f *api.Forest) { f.Nodes[1].Kids[0] = 99 },
+		func(f *api.Forest) { f.Nodes[1].Kids[0] = 2 },
+		func(f *api.Forest) { f.Nodes[1].Kids = append(f.Nodes[1].Kids, 3) },
+		func(f *api.Forest) { f.Nodes[1].Parent = 3 },
+		func(f *api.Forest) { f.Nodes[1].Parent = -1 },
+		func(f *api.Forest) { f.Nodes[1].Kind = 2 },
+		func(f *api.Forest) { f.Nodes[3].Kids = []int{2} },
+		func(f *api.Forest) { f.Nodes[3].Shadow = 3 },
+		func(f *api.Forest) { f.Nodes[2].Data = api.Units{'x'} },
+		func(f *api.Forest) { *f = Flat(api.MaxNodes + 1) },
+	} {
+		f := Tree("a(b c)")
+		tear(&f)
+		l = append(l, f)
+	}
+	return l
 }
 
 // Thick is a forest that is grown, of n nodes, which hang in one another as far as chance has it.

@@ -2,6 +2,7 @@ package sample_test
 
 import (
 	"testing"
+	"unicode/utf16"
 
 	"canopy/api"
 	"canopy/forest"
@@ -16,6 +17,8 @@ func TestTree(t *testing.T) {
 		"a":             "#document\n  <a>\n",
 		"- a(b(c) #)":   "#document\n  #comment 0\n  <a>\n    <b>\n      <c>\n    #text 0\n",
 		")a(b(c)d(e))-": "#document\n  <a>\n    <b>\n      <c>\n    <d>\n      <e>\n  #comment 0\n",
+
+		`!-"ab"a(#"(c)"="d"b ?"")`: "#document\n  !d\n  #comment 2\n  <a>\n    #text 3\n    #cdata 1\n    <b>\n    ?i\n",
 	} {
 		f := sample.Tree(text)
 		if got, why := forest.Print(f, 1); why != api.OK || got != want {
@@ -24,6 +27,34 @@ func TestTree(t *testing.T) {
 	}
 	if f := sample.Tree("a(b(c)d)"); f.Nodes[3].Name.Local != "c" || f.Nodes[4].Name.Local != "d" || f.Nodes[4].Parent != 2 {
 		t.Error(f)
+	}
+}
+
+// What stands in quotes are data, whatever it would be without them.
+func TestTreeData(t *testing.T) {
+	f := sample.Tree(`a(#"b(c)" ?"x")`)
+	if len(f.Nodes) != 4 || string(utf16.Decode(f.Nodes[2].Data)) != "b(c)" || string(utf16.Decode(f.Nodes[3].Data)) != "x" {
+		t.Error(f)
+	}
+}
+
+// Flat and deep forests have as many nodes as they must, and are right; torn ones are not.
+func TestShapes(t *testing.T) {
+	for _, n := range []int{2, 3, 10, api.MaxNodes} {
+		flat, deep := sample.Flat(n), sample.Deep(n)
+		for _, f := range []api.Forest{flat, deep} {
+			if why, at := forest.Check(f); why != api.OK || len(f.Nodes) != n {
+				t.Errorf("%d nodes of %d, error %d at %d", len(f.Nodes), n, why, at)
+			}
+		}
+		if len(flat.Nodes[1].Kids) != n-2 || n > 2 && deep.Nodes[n-1].Parent != n-1 {
+			t.Errorf("of %d nodes: %d kids, the last one hangs on %d", n, len(flat.Nodes[1].Kids), deep.Nodes[n-1].Parent)
+		}
+	}
+	for i, f := range sample.Torn() {
+		if why, _ := forest.Check(f); why != api.ErrForest {
+			t.Errorf("the torn forest %d: error %d", i, why)
+		}
 	}
 }
 

@@ -45,48 +45,6 @@ func wantRefused(t *testing.T, what string, f api.Forest, flt api.Filter, h int,
 	}
 }
 
-// flat is a document with an element that has so many texts that there are n nodes.
-func flat(n int) api.Forest {
-	f := sample.Tree("a")
-	for h := 3; h <= n; h++ {
-		f.Nodes = append(f.Nodes, api.Node{Kind: api.KindText, Doc: 1, Parent: 2})
-		f.Nodes[1].Kids = append(f.Nodes[1].Kids, h)
-	}
-	return f
-}
-
-// deep is a document with elements, each within the one ahead of it, so that there are n nodes.
-func deep(n int) api.Forest {
-	f := sample.Tree("a")
-	for h := 3; h <= n; h++ {
-		f.Nodes = append(f.Nodes, api.Node{Kind: api.KindElement, Name: api.Name{Local: "b"}, Doc: 1, Parent: h - 1})
-		f.Nodes[h-2].Kids = []int{h}
-	}
-	return f
-}
-
-// torn are forests that are not right.
-func torn() []api.Forest {
-	var l []api.Forest
-	for _, turn := range []func(f *api.Forest){
-		func(f *api.Forest) { f.Nodes[1].Doc = 0 },
-		func(f *api.Forest) { f.Nodes[1].Kids[0] = 99 },
-		func(f *api.Forest) { f.Nodes[1].Kids[0] = 2 },
-		func(f *api.Forest) { f.Nodes[1].Kids = append(f.Nodes[1].Kids, 3) },
-		func(f *api.Forest) { f.Nodes[1].Parent = 3 },
-		func(f *api.Forest) { f.Nodes[1].Parent = -1 },
-		func(f *api.Forest) { f.Nodes[1].Kind = 2 },
-		func(f *api.Forest) { f.Nodes[3].Kids = []int{2} },
-		func(f *api.Forest) { f.Nodes[3].Shadow = 3 },
-		func(f *api.Forest) { *f = flat(api.MaxNodes + 1) },
-	} {
-		f := sample.Tree("a(b c)")
-		turn(&f)
-		l = append(l, f)
-	}
-	return l
-}
-
 // wrongFilters are filters by the error that they are.
 func wrongFilters() map[api.Errno]api.Filter {
 	return map[api.Errno]api.Filter{
@@ -100,7 +58,7 @@ func wrongFilters() map[api.Errno]api.Filter {
 func TestErrors(t *testing.T) {
 	tree := sample.Tree("a(b c)")
 	for _, flt := range wrongFilters() {
-		for _, f := range torn() {
+		for _, f := range sample.Torn() {
 			for _, h := range []int{1, 2, 3, 4, 0, -1, 99999} {
 				wantRefused(t, "a torn forest", f, flt, h, api.ErrForest)
 			}
@@ -193,7 +151,7 @@ func TestNewMemory(t *testing.T) {
 func TestGreat(t *testing.T) {
 	started := time.Now()
 	rules := slices.Repeat([]api.Rule{{Local: "x", Verdict: api.VerdictReject}}, api.MaxRules)
-	for _, f := range []api.Forest{flat(api.MaxNodes), deep(api.MaxNodes)} {
+	for _, f := range []api.Forest{sample.Flat(api.MaxNodes), sample.Deep(api.MaxNodes)} {
 		for _, show := range []uint32{api.ShowAll, 0, 1 << (api.KindDocument - 1)} {
 			for _, way := range allWays() {
 				for _, current := range []int{1, 2, api.MaxNodes/2 + 1, api.MaxNodes} {
