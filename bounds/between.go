@@ -72,11 +72,6 @@ func common(f api.Forest, n points.Numbers, r api.Range) int {
 	return 0
 }
 
-// contained needs not ask for the tree: the numbers of no other one are between those of the ends.
-func contained(n points.Numbers, r api.Range, h int) bool {
-	return n.Compare(start(h), r.Start) > 0 && n.Compare(end(n, h), r.End) < 0
-}
-
 // meets is asked of a node of the range's tree.
 func meets(f api.Forest, n points.Numbers, r api.Range, h int) bool {
 	parent := f.Nodes[h-1].Parent
@@ -107,7 +102,7 @@ func textOf(f api.Forest, n points.Numbers, r api.Range) (api.Units, api.Errno) 
 		parts = append(parts, f.Nodes[r.Start.Node-1].Data[r.Start.Offset:])
 	}
 	for _, h := range all {
-		if isText(f, h) && contained(n, r, h) {
+		if isText(f, h) && n.Contained(r, h) {
 			parts = append(parts, f.Nodes[h-1].Data)
 		}
 	}

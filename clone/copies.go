@@ -25,7 +25,7 @@ func next(f api.Forest) int { return len(f.Nodes) + 1 }
 
 // copied is the answer of a copy of a node, which belongs to a document. forest.All refuses what is too much: each copy is of a node of the forest, so that where there is room for all of them they are no more than half of MaxNodes, and their changes fewer than MaxList.
 func copied(f api.Forest, h, doc int, deep bool) (api.Forest, []api.Change, int, api.Errno) {
-	l := copying(f, h, doc, deep)
+	l := Changes(f, h, doc, deep)
 	g, _, why := forest.All(f, l)
 	if why != api.OK {
 		return api.Forest{}, nil, 0, why
@@ -33,8 +33,8 @@ func copied(f api.Forest, h, doc int, deep bool) (api.Forest, []api.Change, int,
 	return g, l, next(f), api.OK
 }
 
-// copying are the changes that make the copies, each ahead of those that it is the parent of.
-func copying(f api.Forest, h, doc int, deep bool) []api.Change {
+// Changes are those that make a copy of a node of a right forest, which belongs to a document: each copy is made ahead of those that it is the parent of. Whether there is room for them is not asked. They are for layers that know that their forest is right, and make many copies: Clone goes over all of it each time.
+func Changes(f api.Forest, h, doc int, deep bool) []api.Change {
 	var l []api.Change
 	own := next(f)
 	var visit func(h, into, at int)

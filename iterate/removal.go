@@ -1,8 +1,6 @@
 package iterate
 
 import (
-	"slices"
-
 	"canopy/api"
 	"canopy/forest"
 )
@@ -68,30 +66,4 @@ func refused(f api.Forest, l []api.Iterator, changes []api.Change) api.Errno {
 	}
 	_, _, why := forest.All(f, changes)
 	return why
-}
-
-// linksOf is a forest that has nothing but its nodes' parents and kids, for changes to be followed there one by one: forest.Apply would go over, and copy, all of it for each of them.
-func linksOf(f api.Forest) api.Forest {
-	var links api.Forest
-	for _, n := range f.Nodes {
-		links.Nodes = append(links.Nodes, api.Node{Parent: n.Parent, Kids: slices.Clone(n.Kids)})
-	}
-	return links
-}
-
-// linked are links behind a change that can be done.
-func linked(links api.Forest, c api.Change) api.Forest {
-	switch c.Kind {
-	case api.ChangeMake, api.ChangeShadow:
-		links.Nodes = append(links.Nodes, api.Node{})
-	case api.ChangeInsert:
-		parent := &links.Nodes[c.Parent-1]
-		parent.Kids = slices.Insert(parent.Kids, c.Index, c.Node)
-		links.Nodes[c.Node-1].Parent = c.Parent
-	case api.ChangeRemove:
-		parent := &links.Nodes[c.Parent-1]
-		parent.Kids = slices.Delete(parent.Kids, c.Index, c.Index+1)
-		links.Nodes[c.Node-1].Parent = 0
-	}
-	return links
 }

@@ -85,3 +85,8 @@ func (n Numbers) Holds(a, b int) bool { return n.first[a] <= n.first[b] && n.las
 func (n Numbers) Valid(r api.Range) bool {
 	return n.OneTree(r.Start.Node, r.End.Node) && n.Compare(r.Start, r.End) <= 0
 }
+
+// Contained tells whether a node is contained in a valid range. It needs not ask for the tree: the numbers of no other one are between those of the ends.
+func (n Numbers) Contained(r api.Range, h int) bool {
+	return n.first[h] > n.Number(r.Start) && n.last[h] < n.Number(r.End)
+}

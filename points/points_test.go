@@ -2,6 +2,7 @@ package points_test
 
 import (
 	"math"
+	"slices"
 	"testing"
 
 	"canopy/api"
@@ -89,6 +90,30 @@ func TestValid(t *testing.T) {
 	} {
 		if got := n.Valid(api.Range{Start: x.from, End: x.to}); got != x.want {
 			t.Errorf("from %v to %v: %v", x.from, x.to, got)
+		}
+	}
+}
+
+// A node is contained in a range if all its points are between the ends, and no node of another tree is.
+func TestContained(t *testing.T) {
+	f := sample.Tree(`a(#"xy" b(c) d)`)
+	f.Nodes = append(f.Nodes, api.Node{Kind: api.KindFragment, Doc: 1})
+	n, _ := points.Of(f)
+	for _, x := range []struct {
+		from, to api.Bound
+		want     []int
+	}{
+		{at(2, 0), at(2, 3), []int{3, 4, 5, 6}}, {at(1, 0), at(1, 1), []int{2, 3, 4, 5, 6}}, {at(3, 0), at(2, 2), []int{4, 5}},
+		{at(3, 2), at(4, 1), []int{5}}, {at(4, 0), at(6, 0), []int{5}}, {at(2, 2), at(2, 2), nil}, {at(7, 0), at(7, 0), nil},
+	} {
+		var got []int
+		for h := 1; h <= len(f.Nodes); h++ {
+			if n.Contained(api.Range{Start: x.from, End: x.to}, h) {
+				got = append(got, h)
+			}
+		}
+		if !slices.Equal(got, x.want) {
+			t.Errorf("from %v to %v: %v, not %v", x.from, x.to, got, x.want)
 		}
 	}
 }

@@ -9,38 +9,31 @@ import (
 // becomes tells what an end becomes by a change.
 type becomes func(api.Bound) api.Bound
 
-// way is what a kind of change does: to ends, as the trees ahead of it have it, and to the trees.
-type way struct {
-	ends func(*trees, api.Change) becomes
-	do   func(*trees, api.Change)
-}
-
-// ways has the kinds of changes that turn an end, or what the next change goes by.
-func ways() map[api.ChangeKind]way {
-	return map[api.ChangeKind]way{
-		api.ChangeMake:   {(*trees).unmoved, (*trees).grow},
-		api.ChangeShadow: {(*trees).unmoved, (*trees).growShadow},
-		api.ChangeInsert: {(*trees).byInsert, (*trees).insert},
-		api.ChangeRemove: {(*trees).byRemove, (*trees).remove},
-		api.ChangeData:   {(*trees).byData, (*trees).replace},
-		api.ChangeSplit:  {(*trees).bySplit, (*trees).rest},
-		api.ChangeMerge:  {(*trees).byMerge, (*trees).rest},
+// ways has the kinds of changes that turn an end, and what ends become by them, as the trees ahead of a change have it.
+func ways() map[api.ChangeKind]func(trees, api.Change) becomes {
+	return map[api.ChangeKind]func(trees, api.Change) becomes{
+		api.ChangeInsert: trees.byInsert,
+		api.ChangeRemove: trees.byRemove,
+		api.ChangeData:   trees.byData,
+		api.ChangeSplit:  trees.bySplit,
+		api.ChangeMerge:  trees.byMerge,
 	}
 }
 
 // follow has ranges, and the trees, as they are behind changes that can be done.
-func (t *trees) follow(l []api.Range, changes ...api.Change) {
+func (t trees) follow(l []api.Range, changes ...api.Change) {
 	by := ways()
 	for _, c := range changes {
-		w, is := by[c.Kind]
-		if !is {
-			continue
+		if way, is := by[c.Kind]; is {
+			turn(l, way(t, c))
 		}
-		end := w.ends(t, c)
-		for i, r := range l {
-			l[i] = api.Range{Start: end(r.Start), End: end(r.End)}
-		}
-		w.do(t, c)
+		t.Follow(c)
+	}
+}
+
+func turn(l []api.Range, end becomes) {
+	for i, r := range l {
+		l[i] = api.Range{Start: end(r.Start), End: end(r.End)}
 	}
 }
 
@@ -48,9 +41,7 @@ func moved(b api.Bound, by int) api.Bound { return api.Bound{Node: b.Node, Offse
 
 func same(b api.Bound) api.Bound { return b }
 
-func (t *trees) unmoved(api.Change) becomes { return same }
-
-func (t *trees) byInsert(c api.Change) becomes {
+func (t trees) byInsert(c api.Change) becomes {
 	return func(b api.Bound) api.Bound {
 		if b.Node == c.Parent && b.Offset > c.Index {
 			return moved(b, 1)
@@ -59,7 +50,7 @@ func (t *trees) byInsert(c api.Change) becomes {
 	}
 }
 
-func (t *trees) byRemove(c api.Change) becomes {
+func (t trees) byRemove(c api.Change) becomes {
 	gone := t.within(c.Node)
 	return func(b api.Bound) api.Bound {
 		switch {
@@ -72,7 +63,7 @@ func (t *trees) byRemove(c api.Change) becomes {
 	}
 }
 
-func (t *trees) byData(c api.Change) becomes {
+func (t trees) byData(c api.Change) becomes {
 	return func(b api.Bound) api.Bound {
 		switch {
 		case b.Node != c.Node || b.Offset <= c.Offset:
@@ -84,7 +75,7 @@ func (t *trees) byData(c api.Change) becomes {
 	}
 }
 
-func (t *trees) bySplit(c api.Change) becomes {
+func (t trees) bySplit(c api.Change) becomes {
 	if !t.splits(c) {
 		return same
 	}
@@ -100,7 +91,7 @@ func (t *trees) bySplit(c api.Change) becomes {
 	}
 }
 
-func (t *trees) byMerge(c api.Change) becomes {
+func (t trees) byMerge(c api.Change) becomes {
 	if !t.merges(c) {
 		return same
 	}
@@ -117,18 +108,18 @@ func (t *trees) byMerge(c api.Change) becomes {
 }
 
 // splits tells whether what stands in Node behind Offset stands in Other, right behind it, too.
-func (t *trees) splits(c api.Change) bool {
+func (t trees) splits(c api.Change) bool {
 	kids, at := t.siblings(c.Node)
 	return at >= 0 && at+1 < len(kids) && kids[at+1] == c.Other && t.haveData(c.Node, c.Other) &&
-		t.reaches(c.Node, c.Offset) && slices.Equal(t.node(c.Other).Data, t.node(c.Node).Data[c.Offset:])
+		t.reaches(c.Node, c.Offset) && slices.Equal(t.Node(c.Other).Data, t.Node(c.Node).Data[c.Offset:])
 }
 
 // merges tells whether what stands in Other stands in Node, a sibling ahead of it, too, from Offset on.
-func (t *trees) merges(c api.Change) bool {
+func (t trees) merges(c api.Change) bool {
 	kids, at := t.siblings(c.Node)
 	if at < 0 || !slices.Contains(kids[at+1:], c.Other) || !t.haveData(c.Node, c.Other) || !t.reaches(c.Node, c.Offset) {
 		return false
 	}
-	behind, other := t.node(c.Node).Data[c.Offset:], t.node(c.Other).Data
+	behind, other := t.Node(c.Node).Data[c.Offset:], t.Node(c.Other).Data
 	return len(other) <= len(behind) && slices.Equal(other, behind[:len(other)])
 }

@@ -1,6 +1,8 @@
 package sample
 
 import (
+	"strings"
+
 	"canopy/api"
 	"canopy/forest"
 )
@@ -124,4 +126,49 @@ func rule(d *Dice) api.Rule {
 		r.Kind = kinds[d.Below(len(kinds))]
 	}
 	return r
+}
+
+// Text writes out what lies within a node, so that Tree of it is the same once more: of names and data that Tree can have.
+func Text(f api.Forest, h int) string {
+	var words []string
+	for _, kid := range f.Nodes[h-1].Kids {
+		words = append(words, wordOf(f, kid))
+	}
+	return strings.Join(words, " ")
+}
+
+func wordOf(f api.Forest, h int) string {
+	n := f.Nodes[h-1]
+	word := signOf(n)
+	if len(n.Data) > 0 {
+		word += `"` + letters(n.Data) + `"`
+	}
+	if len(n.Kids) > 0 {
+		word += "(" + Text(f, h) + ")"
+	}
+	return word
+}
+
+func signOf(n api.Node) string {
+	switch n.Kind {
+	case api.KindText:
+		return "#"
+	case api.KindCData:
+		return "="
+	case api.KindComment:
+		return "-"
+	case api.KindInstruction:
+		return "?"
+	case api.KindDoctype:
+		return "!"
+	}
+	return n.Name.Local
+}
+
+func letters(u api.Units) string {
+	var text strings.Builder
+	for _, unit := range u {
+		text.WriteRune(rune(unit))
+	}
+	return text.String()
 }

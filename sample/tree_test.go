@@ -94,3 +94,12 @@ func TestFilter(t *testing.T) {
 		t.Error("too few of a kind:", said)
 	}
 }
+
+// Text writes a tree out as Tree was given it.
+func TestText(t *testing.T) {
+	for _, text := range []string{"", "a", `! -"ab" a(#"(c)" ="d" b(c(d) -) ? #)`} {
+		if got := sample.Text(sample.Tree(text), 1); got != text {
+			t.Errorf("%q is written %q", text, got)
+		}
+	}
+}
