@@ -19,6 +19,35 @@ func Slotted(d *Dice, n int) api.Forest {
 	return f
 }
 
+// Packed is such a forest in which few nodes hang nowhere: they are put into hosts, into shadow roots, and into slots, so that slots are assigned to slots, and many have kids of their own.
+func Packed(d *Dice, n int) api.Forest {
+	f := Slotted(d, n)
+	for h := 1; h <= len(f.Nodes); h++ {
+		for range 6 {
+			if f.Nodes[h-1].Parent == 0 {
+				f = tried(f, packing(d, f, h))
+			}
+		}
+	}
+	return f
+}
+
+// packing is a change that puts a node into one that has a shadow root, is one, or is a slot, if it finds such: not all of them can be done.
+func packing(d *Dice, f api.Forest, h int) api.Change {
+	parent := 1 + d.Below(len(f.Nodes))
+	for range 12 {
+		if n := f.Nodes[parent-1]; n.Shadow != 0 || n.Kind == api.KindShadow || isSlot(n) {
+			break
+		}
+		parent = 1 + d.Below(len(f.Nodes))
+	}
+	return api.Change{Kind: api.ChangeInsert, Node: h, Parent: parent, Index: d.Below(1 + len(f.Nodes[parent-1].Kids))}
+}
+
+func isSlot(n api.Node) bool {
+	return n.Kind == api.KindElement && n.Name.Space == api.SpaceHTML && n.Name.Local == "slot"
+}
+
 // entry is a change that makes a node: a shadow root now and then, which not every element can have.
 func entry(d *Dice, f api.Forest) api.Change {
 	next := len(f.Nodes) + 1
@@ -107,7 +136,7 @@ func Hand(d *Dice, f api.Forest) []api.Assign {
 		case api.KindElement, api.KindText, api.KindCData:
 			nodes = append(nodes, i+1)
 		}
-		if n.Kind == api.KindElement && n.Name.Space == api.SpaceHTML && n.Name.Local == "slot" {
+		if isSlot(n) {
 			slots = append(slots, i+1)
 		}
 	}

@@ -49,6 +49,35 @@ func TestSlotted(t *testing.T) {
 	}
 }
 
+// What is packed is right, of so many nodes, the same each time, and few nodes hang nowhere; many slots have kids, or are kids of hosts.
+func TestPacked(t *testing.T) {
+	hanging, loose, within, kids := 0, 0, 0, 0
+	for seed := range 100 {
+		f := sample.Packed(sample.NewDice(seed), 30)
+		if why, at := forest.Check(f); why != api.OK || len(f.Nodes) != 30 || !forest.Same(f, sample.Packed(sample.NewDice(seed), 30)) {
+			t.Errorf("seed %d: %d nodes, error %d at %d", seed, len(f.Nodes), why, at)
+		}
+		for _, n := range f.Nodes {
+			slot := n.Name.Space == api.SpaceHTML && n.Name.Local == "slot"
+			switch {
+			case n.Parent != 0:
+				hanging++
+			case n.Host == 0:
+				loose++
+			}
+			if slot && len(n.Kids) > 0 {
+				kids++
+			}
+			if slot && n.Parent != 0 && f.Nodes[n.Parent-1].Shadow != 0 {
+				within++
+			}
+		}
+	}
+	if hanging < 5*loose || within < 200 || kids < 200 {
+		t.Error("too few of a kind:", hanging, loose, within, kids)
+	}
+}
+
 func sameAssign(a, b api.Assign) bool { return a.Slot == b.Slot && slices.Equal(a.Nodes, b.Nodes) }
 
 // Changes of attributes can most often be done to an element, and come in all kinds.

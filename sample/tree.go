@@ -7,27 +7,93 @@ import (
 	"canopy/forest"
 )
 
-// Tree is a document with what a text writes out: a letter is an element of that name, # a text, = a CDATA, - a comment, ? an instruction, ! a doctype; what stands in quotes are the data of the node ahead of them, what stands in brackets lies within it. The handles rise from 2 on, as the nodes are written.
+// Tree is a document with what a text writes out: a letter is an element of that name, / a slot, # a text, = a CDATA, - a comment, ? an instruction, ! a doctype, ~ a fragment, which hangs nowhere; what stands in quotes are the data of the node ahead of them, what stands in brackets lies within it: in (), or in its shadow root, an open one in {}, a closed one in [], with * for a Manual one. A letter behind . is the name of the node ahead of it, one behind : the name of its slot. The handles rise from 2 on, as the nodes are written.
 func Tree(text string) api.Forest {
-	f := forest.New(false)
-	open, quoted := []int{1}, false
+	t := tree{forest: forest.New(false), open: []int{1}, last: 1}
 	for _, r := range text {
-		n, is := written(r)
-		switch {
-		case r == '"':
-			quoted = !quoted
-		case quoted:
-			last := &f.Nodes[len(f.Nodes)-1]
-			last.Data = append(last.Data, uint16(r))
-		case r == '(':
-			open = append(open, len(f.Nodes))
-		case r == ')' && len(open) > 1:
-			open = open[:len(open)-1]
-		case is:
-			hang(&f, open[len(open)-1], n)
-		}
+		t.read(r)
 	}
-	return f
+	return t.forest
+}
+
+// tree is how far a text is read: the nodes that are open, the one that what comes next is told of, and what its attribute is.
+type tree struct {
+	forest api.Forest
+	open   []int
+	last   int
+	quoted bool
+	attr   string
+}
+
+func (t *tree) node(h int) *api.Node { return &t.forest.Nodes[h-1] }
+
+func (t *tree) within() int { return t.open[len(t.open)-1] }
+
+func (t *tree) read(r rune) {
+	last := t.node(t.last)
+	switch {
+	case r == '"':
+		t.quoted = !t.quoted
+	case t.quoted:
+		last.Data = append(last.Data, uint16(r))
+	case t.attr != "":
+		last.Attrs = append(last.Attrs, api.Attr{Name: api.Name{Local: t.attr}, Value: string(r)})
+		t.attr = ""
+	case r == ':':
+		t.attr = "slot"
+	case r == '.':
+		t.attr = "name"
+	case r == '*':
+		t.node(t.within()).Manual = true
+	case strings.ContainsRune("({[", r):
+		t.begin(r)
+	case strings.ContainsRune(")}]", r):
+		t.end()
+	default:
+		t.put(r)
+	}
+}
+
+// put has the node that a sign stands for, if it stands for one.
+func (t *tree) put(r rune) {
+	n, is := written(r)
+	switch {
+	case is && n.Kind == api.KindFragment:
+		n.Doc = 1
+		t.forest.Nodes = append(t.forest.Nodes, n)
+	case is:
+		hang(&t.forest, t.within(), n)
+	default:
+		return
+	}
+	t.last = len(t.forest.Nodes)
+}
+
+// begin has what comes next lie in the last node, or in a shadow root of it.
+func (t *tree) begin(r rune) {
+	h := t.last
+	if r != '(' {
+		root := api.Node{Kind: api.KindShadow, Mode: api.ShadowOpen, Host: h, Doc: 1}
+		if r == '[' {
+			root.Mode = api.ShadowClosed
+		}
+		t.forest.Nodes = append(t.forest.Nodes, root)
+		t.node(h).Shadow = len(t.forest.Nodes)
+		h = len(t.forest.Nodes)
+	}
+	t.open = append(t.open, h)
+}
+
+// end has what comes next be told of the node that is open no more: of a shadow root's host.
+func (t *tree) end() {
+	if len(t.open) == 1 {
+		return
+	}
+	t.last = t.within()
+	if host := t.node(t.last).Host; host != 0 {
+		t.last = host
+	}
+	t.open = t.open[:len(t.open)-1]
 }
 
 // written is the node that a sign stands for.
@@ -43,6 +109,10 @@ func written(r rune) (api.Node, bool) {
 		return api.Node{Kind: api.KindInstruction, Name: api.Name{Local: "i"}}, true
 	case '!':
 		return api.Node{Kind: api.KindDoctype, Name: api.Name{Local: "d"}}, true
+	case '/':
+		return api.Node{Kind: api.KindElement, Name: api.Name{Space: api.SpaceHTML, Local: "slot"}}, true
+	case '~':
+		return api.Node{Kind: api.KindFragment}, true
 	}
 	return api.Node{Kind: api.KindElement, Name: api.Name{Local: string(r)}}, r >= 'a' && r <= 'z'
 }

@@ -30,6 +30,24 @@ func TestTree(t *testing.T) {
 	}
 }
 
+// Shadow roots, slots and their names, and what hangs nowhere.
+func TestTreeShadows(t *testing.T) {
+	f := sample.Tree(`h(p:a -){/.a:b(#"x")[*]}(q) ~(b) `)
+	if why, at := forest.Check(f); why != api.OK || len(f.Nodes) != 11 {
+		t.Fatal(f, why, at)
+	}
+	if text, _ := forest.Print(f, 1); text != "#document\n  <h>\n    #shadow\n      <slot name slot>\n        #shadow\n        #text 1\n    <p slot>\n    #comment 0\n    <q>\n" {
+		t.Error(text)
+	}
+	if text, _ := forest.Print(f, 10); text != "#fragment\n  <b>\n" {
+		t.Error(text)
+	}
+	root, slot, deeper := f.Nodes[4], f.Nodes[5], f.Nodes[7]
+	if root.Mode != api.ShadowOpen || root.Manual || deeper.Mode != api.ShadowClosed || !deeper.Manual || slot.Attrs[0].Value != "a" || slot.Attrs[1].Value != "b" || slot.Name.Space != api.SpaceHTML {
+		t.Error(root, slot, deeper)
+	}
+}
+
 // What stands in quotes are data, whatever it would be without them.
 func TestTreeData(t *testing.T) {
 	f := sample.Tree(`a(#"b(c)" ?"x")`)

@@ -4,6 +4,7 @@ import (
 	"slices"
 
 	"canopy/api"
+	"canopy/slots"
 )
 
 // there tells whether each of some handles is of a node.
@@ -16,19 +17,6 @@ func all(f api.Forest, such func(api.Forest, int) bool, handles ...int) bool {
 	return !slices.ContainsFunc(handles, func(h int) bool { return !such(f, h) })
 }
 
-func isSlot(f api.Forest, h int) bool {
-	n := &f.Nodes[h-1]
-	return n.Kind == api.KindElement && n.Name.Space == api.SpaceHTML && n.Name.Local == "slot"
-}
-
-func isSlottable(f api.Forest, h int) bool {
-	switch f.Nodes[h-1].Kind {
-	case api.KindElement, api.KindText, api.KindCData:
-		return true
-	}
-	return false
-}
-
 // wrong is why what is given by hand is not right in a right forest. Each thing is asked of the whole list ahead of the next one.
 func wrong(f api.Forest, hand []api.Assign) api.Errno {
 	if len(hand) > api.MaxList || slices.ContainsFunc(hand, func(a api.Assign) bool { return len(a.Nodes) > api.MaxList }) {
@@ -37,9 +25,9 @@ func wrong(f api.Forest, hand []api.Assign) api.Errno {
 	if slices.ContainsFunc(hand, func(a api.Assign) bool { return !there(f, a.Slot) || !there(f, a.Nodes...) }) {
 		return api.ErrRange
 	}
-	slots, nodes := make([]bool, len(f.Nodes)+1), make([]bool, len(f.Nodes)+1)
+	given, nodes := make([]bool, len(f.Nodes)+1), make([]bool, len(f.Nodes)+1)
 	for _, a := range hand {
-		if !isSlot(f, a.Slot) || !all(f, isSlottable, a.Nodes...) || !marked(slots, a.Slot) || !marked(nodes, a.Nodes...) {
+		if !slots.Is(f, a.Slot) || !all(f, slots.Slottable, a.Nodes...) || !marked(given, a.Slot) || !marked(nodes, a.Nodes...) {
 			return api.ErrType
 		}
 	}
