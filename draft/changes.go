@@ -24,7 +24,7 @@ func (d *Draft) Follow(c api.Change) {
 		parent.Kids = slices.Delete(parent.Kids, c.Index, c.Index+1)
 		d.Node(c.Node).Parent = 0
 	case api.ChangeAdopt:
-		for h := range d.below(c.Node) {
+		for h := range d.Below(c.Node) {
 			d.Node(h).Doc = c.Doc
 		}
 	case api.ChangeData:

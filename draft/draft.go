@@ -74,8 +74,19 @@ func (d *Draft) Behind(h int) int {
 	return d.KidAt(parent, d.Place(parent, h)+1)
 }
 
-// below yields a node and all below it, through shadow trees.
-func (d *Draft) below(h int) iter.Seq[int] {
+// Connected tells whether a node is in a document, through shadow trees.
+func (d *Draft) Connected(h int) bool {
+	for over := d.over(h); over != 0; over = d.over(h) {
+		h = over
+	}
+	return d.Is(h, api.KindDocument)
+}
+
+// over is a node's parent, or host: no node has both.
+func (d *Draft) over(h int) int { return max(d.Node(h).Parent, d.Node(h).Host) }
+
+// Below yields a node and all below it, through shadow trees, each ahead of its shadow root and that ahead of its kids.
+func (d *Draft) Below(h int) iter.Seq[int] {
 	return func(yield func(int) bool) { d.goBelow(h, yield) }
 }
 

@@ -7,6 +7,7 @@ import (
 	"canopy/api"
 	"canopy/draft"
 	"canopy/forest"
+	"canopy/order"
 	"canopy/sample"
 )
 
@@ -180,5 +181,43 @@ func TestTake(t *testing.T) {
 	g, _ := forest.Apply(d.Forest, c)
 	if why := d.Take(g, []api.Change{c}, api.OK); why != api.OK || !forest.Same(d.Forest, g) || len(d.Changes) != 2 {
 		t.Error(why)
+	}
+}
+
+// What is below a node, and whether it is in a document, is as order tells it, wherever changes have led.
+func TestWhereNodesAre(t *testing.T) {
+	connected, loose := 0, 0
+	for seed := range 60 {
+		d := sample.NewDice(seed)
+		f := sample.Thick(d, 2+d.Below(14))
+		follower := draft.Of(f)
+		for _, c := range sample.Changes(d, f, 20) {
+			follower.Follow(c)
+		}
+		for i := range follower.Forest.Nodes {
+			h := i + 1
+			deep, _ := order.Deep(follower.Forest, h)
+			if got := slices.Collect(follower.Below(h)); !slices.Equal(got, deep) {
+				t.Fatalf("seed %d: below %d: %v, not %v", seed, h, got, deep)
+			}
+			is, _ := order.Connected(follower.Forest, h)
+			if follower.Connected(h) != is {
+				t.Fatalf("seed %d: %d: not %v", seed, h, is)
+			}
+			if is {
+				connected++
+			} else {
+				loose++
+			}
+		}
+		for h := range follower.Below(1) {
+			if h != 1 {
+				t.Fatal("it is gone on where nothing more is wanted")
+			}
+			break
+		}
+	}
+	if connected < 200 || loose < 200 {
+		t.Error("too few:", connected, loose)
 	}
 }

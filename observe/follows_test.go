@@ -19,44 +19,6 @@ func fine(t *testing.T, why api.Errno) {
 	}
 }
 
-// aChange is one of any kind: not all of them can be done.
-func aChange(d *sample.Dice, f api.Forest) api.Change {
-	h, next := 1+d.Below(len(f.Nodes)), len(f.Nodes)+1
-	n := f.Nodes[h-1]
-	switch d.Below(12) {
-	case 0:
-		return api.Change{Kind: api.ChangeMake, Node: next, Made: sample.Loose(d, f)}
-	case 1:
-		return api.Change{Kind: api.ChangeShadow, Node: h, Other: next, Made: api.Node{Kind: api.KindShadow, Mode: api.ShadowClosed}}
-	case 2:
-		return api.Change{Kind: api.ChangeAdopt, Node: h, Doc: f.Nodes[d.Below(len(f.Nodes))].Doc}
-	case 3, 4:
-		offset := d.Below(len(n.Data) + 1)
-		return api.Change{Kind: api.ChangeData, Node: h, Offset: offset, Count: d.Below(len(n.Data) - offset + 1), Data: sample.Data(d)}
-	case 5, 6:
-		return sample.Naming(d, f)
-	case 7:
-		return api.Change{Kind: api.ChangeTree, Parent: d.Below(len(f.Nodes) + 1), Added: []int{h}, Removed: n.Kids, Prev: n.Parent, Next: d.Below(2)}
-	case 8, 9:
-		if n.Parent != 0 {
-			return api.Change{Kind: api.ChangeRemove, Node: h, Parent: n.Parent, Index: slices.Index(f.Nodes[n.Parent-1].Kids, h)}
-		}
-	}
-	return sample.Insertion(d, f)
-}
-
-// changesOf are some that can be done, one behind the other.
-func changesOf(d *sample.Dice, f api.Forest, n int) []api.Change {
-	var l []api.Change
-	for range n {
-		c := aChange(d, f)
-		if g, why := forest.Apply(f, c); why == api.OK {
-			f, l = g, append(l, c)
-		}
-	}
-	return l
-}
-
 // model is a watch that follows changes as the words say, by going over all of it for each.
 type model struct {
 	f api.Forest
@@ -136,7 +98,7 @@ func each(seeds, nodes, changes int, see func(seed int, d *sample.Dice, f api.Fo
 		d := sample.NewDice(seed)
 		f := sample.Thick(d, 2+d.Below(nodes))
 		w := sample.Watch(d, f, 1+d.Below(4), d.Below(12))
-		see(seed, d, f, w, changesOf(d, f, changes))
+		see(seed, d, f, w, sample.Changes(d, f, changes))
 	}
 }
 
@@ -232,7 +194,7 @@ func TestAllAreTold(t *testing.T) {
 		var l []api.Change
 		want := 0
 		for range 30 {
-			c := aChange(d, g)
+			c := sample.Change(d, g)
 			next, why := forest.Apply(g, c)
 			if why != api.OK {
 				continue
