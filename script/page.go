@@ -6,14 +6,15 @@ import (
 	"canopy/api"
 )
 
-// page is a text that is written. What would be longer than MaxScript is not written on, so that no more is done for it than for a text that is let in.
+// page is a text that is written, of so many bytes at most. What would be longer is not written on, so that no more is done for it than for a text that is let in.
 type page struct {
 	text []byte
+	most int
 	long bool
 }
 
 func (p *page) put(s string) {
-	p.long = p.long || len(s) > api.MaxScript-len(p.text)
+	p.long = p.long || len(s) > p.most-len(p.text)
 	if !p.long {
 		p.text = append(p.text, s...)
 	}

@@ -195,6 +195,24 @@ func TestTexts(t *testing.T) {
 	}
 }
 
+// Words (a field's text): Quote is that of a text, however long.
+func TestQuote(t *testing.T) {
+	for b := range 256 {
+		s := "a" + string([]byte{byte(b)})
+		if got := script.Quote(s); got != modelText(s) {
+			t.Errorf("%q: %s", s, got)
+		}
+	}
+	if script.Quote("") != `""` {
+		t.Error("of an empty text")
+	}
+	for _, n := range []int{api.MaxScript, api.MaxScript + 1, 4 * api.MaxScript} {
+		if got := script.Quote(strings.Repeat("\n", n)); len(got) != 4*n+2 || strings.Count(got, `\x0a`) != n {
+			t.Error(n, len(got))
+		}
+	}
+}
+
 // Words (a field's text): Data, unit by unit, each unit there is.
 func TestData(t *testing.T) {
 	for text, u := range map[string]api.Units{
